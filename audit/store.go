@@ -29,7 +29,7 @@ const (
 )
 
 // foundMarks is what keys begin with by which nodes and edges are found.
-var foundMarks = [5]string{"o", "i", labelMark, "r", "u"}
+var foundMarks = [5]string{"o", "i", "l", "r", "u"}
 
 // kind is all nodes, or all edges: their numbers, what they say, the next number that is given, and those that are free.
 type kind struct {
