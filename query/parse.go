@@ -42,7 +42,7 @@ func (p *parser) must(taken bool) {
 // reserved tells whether a name is a word that no name may be.
 func reserved(s string) bool {
 	switch s {
-	case findWord, whereWord, andWord, tellWord, limitWord, plain[0]:
+	case findWord, whereWord, andWord, tellWord, limitWord, noneWord:
 		return true
 	}
 	return false
