@@ -205,17 +205,25 @@ func TestNone(t *testing.T) {
 // history is what was told as done: the acts of transactions that were committed, in their order; and of those that go on.
 type history struct {
 	t    *testing.T
-	done []api.Op
-	open [4][]api.Op
+	done []noted
+	open [4][]noted
 	wait [4]api.Op
 }
 
-// replayed is the graph behind acts that are done alone.
-func (h *history) replayed(ops []api.Op) api.Dump {
+// noted is an act, and what it came to.
+type noted struct {
+	op    api.Op
+	reply api.Reply
+}
+
+// replayed is the graph behind what was done, when it is done alone: all must be told the same.
+func (h *history) replayed() api.Dump {
 	h.t.Helper()
 	w := newWorld(h.t, 400, 40)
-	for _, op := range ops {
-		w.does(h.t, act(0, op), api.OK)
+	for i, was := range h.done {
+		if said := w.Do(act(0, was.op)); said.Tell != api.TellDone || !reflect.DeepEqual(said.Reply, was.reply) {
+			h.t.Fatalf("act %d (%v) was told %v, and alone %v", i, was.op, was.reply, said.Reply)
+		}
 	}
 	return w.now(h.t)
 }
@@ -228,12 +236,12 @@ func (h *history) note(who int, op api.Op, said api.Said) {
 	case said.Tell == api.TellAbort || op.What == api.OpAbort:
 		h.open[who] = nil
 	case said.Reply.Err == api.OK && op.What == api.OpCommit:
-		h.done = append(append(h.done, h.open[who]...), op)
+		h.done = append(append(h.done, h.open[who]...), noted{op, said.Reply})
 		h.open[who] = nil
-	case op.What == api.OpCommit && said.Reply.Err != api.ErrPower:
+	case op.What == api.OpCommit && said.Reply.Err != api.ErrPower && said.Reply.Err != api.ErrIntegrity:
 		h.open[who] = nil
-	case said.Reply.Err == api.OK:
-		h.open[who] = append(h.open[who], op)
+	case said.Reply.Err != api.ErrPower && said.Reply.Err != api.ErrIntegrity:
+		h.open[who] = append(h.open[who], noted{op, said.Reply})
 	}
 }
 
@@ -241,16 +249,16 @@ func (h *history) note(who int, op api.Op, said api.Said) {
 func (h *history) opened(w *World, last int) {
 	h.t.Helper()
 	now := w.now(h.t)
-	if !dump.Same(now, h.replayed(h.done)) {
+	if !dump.Same(now, h.replayed()) {
 		if last < 0 {
 			h.t.Fatal("what was committed is not there")
 		}
-		h.done = append(append(h.done, h.open[last]...), commit)
-		if !dump.Same(now, h.replayed(h.done)) {
+		h.done = append(append(h.done, h.open[last]...), noted{op: commit})
+		if !dump.Same(now, h.replayed()) {
 			h.t.Fatal("neither what was nor what was to be is there")
 		}
 	}
-	h.open = [4][]api.Op{}
+	h.open = [4][]noted{}
 }
 
 // chosen is an act of a session by chance.
@@ -324,12 +332,16 @@ func TestWhateverHappens(t *testing.T) {
 			if w.Device().Counter() > number+2 {
 				t.Fatal("the number rises too far")
 			}
+			if enemy && chance.Intn(200) == 0 {
+				w.Do(api.Act{What: api.ActPoke, A: chance.Intn(130), B: chance.Intn(512), S: "x"})
+			}
 			if w.Stuck() == api.OK && !enemy {
 				if wrong := audit.Vault(w.DB().Vault()); wrong != 0 {
 					t.Fatalf("seed %d: wrong %d", seed, wrong)
 				}
 			}
 		}
+		h.replayed()
 		if one, other, ok := w.Book().Twins(); ok {
 			t.Errorf("twins: %q and %q", one, other)
 		}
