@@ -1,6 +1,8 @@
 package query
 
 import (
+	"math"
+
 	"lodestone/api"
 	"lodestone/lex"
 	"lodestone/names"
@@ -74,10 +76,10 @@ func (p *parser) typed() (string, string) {
 	return name, typ
 }
 
-// number takes a number from 0 on.
-func (p *parser) number() int64 {
+// number takes a number from 0 to most: a greater one may not stand there.
+func (p *parser) number(most int64) int64 {
 	w := p.word()
-	p.must(w.Kind == api.WordInt)
+	p.must(w.Kind == api.WordInt && w.N <= most)
 	if p.wrong {
 		return 0
 	}
@@ -93,14 +95,14 @@ func (p *parser) value() api.Value {
 		}
 	}
 	if p.mark("-") {
-		return value.Int(-p.number())
+		return value.Int(-p.number(math.MaxInt64))
 	}
 	w := p.word()
 	if w.Kind == api.WordText && !p.wrong {
 		p.at++
 		return value.Text(w.S)
 	}
-	return value.Int(p.number())
+	return value.Int(p.number(math.MaxInt64))
 }
 
 // props takes a node's properties, behind the brace that is ahead of them.
@@ -193,7 +195,7 @@ func (p *parser) question() api.Question {
 		q.Tell = append(q.Tell, p.item())
 	}
 	if p.keyword(limitWord) {
-		q.Limit = int(p.number())
+		q.Limit = int(p.number(api.MostLimit))
 	}
 	p.must(p.word().Kind == api.WordEnd)
 	return q

@@ -64,6 +64,7 @@ func TestGrammarErrors(t *testing.T) {
 		"find (a) - (b) tell a": 11, "find (a) -[e]- (b) tell a": 13, "find (a) <-[e]-> (b) tell a": 14, "find (a) -[e] (b) tell a": 14, "find (a) -[e:]-> (b) tell a": 13, "find (a) -> (b) tell a": 9, "find (a) -[e]->": 15,
 		"find (a)": 8, "find (a) where tell a": 15, "find (a) where a tell a": 17, "find (a) where a.k tell a": 19, "find (a) where a.k = tell a": 21, "find (a) where a.k = 1 and tell a": 27, "find (a) where a.k == 1 tell a": 20,
 		"find (a) where a.k = 1 or a.k = 2 tell a": 23, "find (a) tell": 13, "find (a) tell a,": 16, "find (a) tell a.": 16, "find (a) tell a b": 16, "find (a) tell limit": 14, "find (a) tell a limit": 21, "find (a) tell a limit -1": 22,
+		"find (a) tell a limit 257": 22, "find (a) tell a limit 9223372036854775807 ": 22, "find (a) tell b limit 257": 22, "find (a) tell a limit 257 6": 22, "find (a)-[a]->() tell b  limit\t0300": 31,
 		"find (a) tell a limit 5 6": 24, "find (a) tell a limit x": 22, "find (a) tell 5": 14, "find (a) tell and": 14, `find (a) tell "a"`: 14,
 	} {
 		if q, at, e := Parse(s); at != want || e != api.ErrGrammar || !reflect.DeepEqual(q, api.Question{}) {
@@ -86,7 +87,7 @@ func TestWhatMayNotBeEndsAtTheEnd(t *testing.T) {
 	items := func(n int) string { return "find (a) tell a" + strings.Repeat(", a", n-1) }
 	for s, ok := range map[string]bool{
 		chain(6) + " tell a": true, chain(7) + " tell a": false, conds(8): true, conds(9): false, items(8): true, items(9): false,
-		"find (a) tell a limit 256": true, "find (a) tell a limit 257": false, "find (a) tell a limit 9223372036854775807": false,
+		"find (a) tell a limit 256": true, "find (a) tell a limit 0": true, "find (a) tell b limit 256": false, "find (a)-[a]->() tell a limit 0": false,
 		"find (a)-[]->(a) tell a": false, "find (a)-[a]->() tell a": false, "find ()-[e]->()-[e]->() tell e": false, "find (a) tell b": false, "find (a) where b.k = 1 tell a": false, "find (:a) tell a": false,
 	} {
 		q, at, e := Parse(s)
@@ -99,7 +100,7 @@ func TestWhatMayNotBeEndsAtTheEnd(t *testing.T) {
 func TestMay(t *testing.T) {
 	for i, q := range []api.Question{
 		{}, {Nodes: []api.NodePat{{Var: "a"}}}, {Tell: []api.Item{{Var: "a"}}}, {Nodes: []api.NodePat{{Var: "a"}}, Edges: []api.EdgePat{{}}, Tell: []api.Item{{Var: "a"}}},
-		{Nodes: []api.NodePat{{Var: "a"}}, Tell: []api.Item{{Var: "a"}}, Limit: -1}, {Nodes: []api.NodePat{{}}, Tell: []api.Item{{}}}, {Nodes: []api.NodePat{{Var: "a"}}, Tell: []api.Item{{Var: "a"}}, Where: []api.Cond{{}}},
+		{Nodes: []api.NodePat{{Var: "a"}}, Tell: []api.Item{{Var: "a"}}, Limit: -1}, {Nodes: []api.NodePat{{Var: "a"}}, Tell: []api.Item{{Var: "a"}}, Limit: api.MostLimit + 1}, {Nodes: []api.NodePat{{}}, Tell: []api.Item{{}}}, {Nodes: []api.NodePat{{Var: "a"}}, Tell: []api.Item{{Var: "a"}}, Where: []api.Cond{{}}},
 	} {
 		if May(q) {
 			t.Errorf("case %d may be", i)
