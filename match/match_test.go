@@ -246,6 +246,66 @@ func TestWhatMayNotBe(t *testing.T) {
 	}
 }
 
+// TestConditionsOnOtherNames: by a name that the question has not nothing is laid, so that each property there is nothing.
+func TestConditionsOnOtherNames(t *testing.T) {
+	g := people(t)
+	none, one := api.Value{}, value.Int(1)
+	hop := []api.EdgePat{{Var: "e", Type: "likes", Out: true}}
+	for _, name := range []string{"z", ""} {
+		for _, c := range []struct {
+			where []api.Cond
+			holds bool
+		}{
+			{[]api.Cond{{Var: name, Key: "age", Op: api.CondSame, Value: one}}, false},
+			{[]api.Cond{{Var: name, Key: "age", Op: api.CondSame, Value: none}}, true},
+			{[]api.Cond{{Var: name, Key: "age", Op: api.CondOther, Value: one}}, true},
+			{[]api.Cond{{Var: name, Key: "age", Op: api.CondOther, Value: none}}, false},
+			{[]api.Cond{{Var: name, Key: "age", Op: api.CondLess, Value: one}}, false},
+			{[]api.Cond{{Var: name, Key: "age", Op: api.CondMore, Value: one}}, false},
+			{[]api.Cond{{Var: name, Key: "age", Op: api.CondLess, Value: none}}, false},
+			{[]api.Cond{{Var: name, Key: "age", Op: api.CondUpTo, Value: none}}, true},
+			{[]api.Cond{{Var: name, Key: "age", Op: api.CondFrom, Value: none}}, true},
+			{[]api.Cond{{Var: name, Op: api.CondSame, Value: none}}, true},
+			{[]api.Cond{{Var: name, Key: "age", Op: 6, Value: none}}, false},
+			{[]api.Cond{{Var: name, Key: "age", Op: api.CondSame, Value: none}, {Var: name, Key: "y", Op: api.CondSame, Value: one}}, false},
+			{[]api.Cond{{Var: "a", Key: "none", Op: api.CondSame, Value: none}, {Var: name, Key: "age", Op: api.CondSame, Value: one}}, false},
+		} {
+			for _, q := range []struct {
+				api.Question
+				want string
+			}{
+				{api.Question{Nodes: []api.NodePat{{Var: "a"}}}, "1 2 3 4"},
+				{api.Question{Nodes: []api.NodePat{{Var: "a"}, {}}, Edges: hop}, "1 3"},
+				{api.Question{Nodes: []api.NodePat{{Var: "a"}, {Var: "b"}}, Edges: []api.EdgePat{{Type: "likes"}}}, "2 3"},
+			} {
+				q.Where, q.Tell, q.Limit = c.where, []api.Item{{Var: "a"}}, 9
+				if !c.holds {
+					q.want = ""
+				}
+				if rows, e := Rows(g, q.Question); e != api.OK || said(rows) != q.want {
+					t.Errorf("where %v: %s, not %s, %d", c.where, said(rows), q.want, e)
+				}
+			}
+		}
+	}
+}
+
+// TestConditionsOnOtherNamesCutNothingShort: as their names are never laid, all is tried that is tried without them.
+func TestConditionsOnOtherNamesCutNothingShort(t *testing.T) {
+	for n, want := range map[int]api.Errno{44: api.OK, 45: api.ErrMuch} {
+		g, _ := newGraph(t)
+		node(t, g, "")
+		for range n {
+			edge(t, g, "T", 1, 1)
+		}
+		q, _, _ := query.Parse("find (a)-[]->(b)-[]->(c) tell a")
+		q.Where = []api.Cond{{Var: "z", Key: "k", Op: api.CondSame, Value: value.Int(1)}}
+		if rows, e := Rows(g, q); rows != nil || e != want {
+			t.Errorf("%d edges: %d rows, %d", n, len(rows), e)
+		}
+	}
+}
+
 func TestProp(t *testing.T) {
 	x := api.Info{Props: []api.Pair{pair("a", 1), pair("b", 2)}}
 	if Prop(x, "b") != value.Int(2) || Prop(x, "c") != (api.Value{}) || Prop(api.Info{}, "") != (api.Value{}) {
